@@ -86,5 +86,10 @@ func TestSoundTellsLost(t *testing.T) {
 		if l.Sound() {
 			t.Errorf("node %d stands nowhere: sound", node)
 		}
+		// So, too, where its list still counts it, and all numbers together are right.
+		l.lens[l.links[node].list]++
+		if l.Sound() {
+			t.Errorf("node %d stands nowhere, and is counted: sound", node)
+		}
 	}
 }
